@@ -1,0 +1,1 @@
+"""Where a carriage is, told by two signals alone."""
